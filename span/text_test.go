@@ -208,7 +208,7 @@ func TestP81Long(t *testing.T) {
 	}
 }
 
-// All texts of up to five of the tokens in which something changes.
+// All texts of up to four of the tokens in which something changes.
 func TestP81ShortTexts(t *testing.T) {
 	tokens := []string{" ", "||", " || ", "*", "!", "=", "<", ">", "~", "^", "0.0.1", "0.0.2-0"}
 	l := []string{""}
